@@ -1,0 +1,51 @@
+"""What the tests share: rules written as words, and the document's definition of watching, read literally."""
+
+import itertools
+
+
+def rule_of(n, says_up):
+    """The rule, as a number, of a tower whose flag is up next where says_up(flags) holds."""
+    rule = 0
+    for state in range(2 ** n):
+        flags = [bool(state & 2 ** tower) for tower in range(n)]
+        if says_up(flags):
+            rule += 2 ** state
+    return rule
+
+
+def kind_by_definition(n, i, rule):
+    """How a tower with this rule watches tower i, over tuples of flags instead of numbered states."""
+    rows = {}
+    digits = bin(rule)[2:].zfill(2 ** n)[::-1]
+    for backwards in itertools.product("01", repeat=n):
+        rows[backwards[::-1]] = digits[int("".join(backwards), 2)]
+    changes = set()
+    for flags, said in rows.items():
+        if flags[i] == "0":
+            changes.add(said + rows[flags[:i] + ("1",) + flags[i + 1:]])
+    return ("01" in changes) + 2 * ("10" in changes)
+
+
+class SealedList(list):
+    """A list that can be read alone: whoever changes it, if only for a while, fails."""
+
+    def refuse(self, *args, **kwargs):
+        raise AssertionError("what is handed in was changed")
+
+    __setitem__ = __delitem__ = __iadd__ = __imul__ = refuse
+    append = clear = extend = insert = pop = remove = reverse = sort = refuse
+
+
+# For each number of towers, the last rule that fits and the first that doesn't.
+# With 4 towers the latter is beyond what the interface hands over; it is refused all the same.
+RULE_LIMITS = {1: (3, 4), 2: (15, 16), 3: (255, 256), 4: (65535, 65536)}
+
+# Pairs of n and t that every call refuses with -22.
+UNFIT = (
+    [(n, [0] * length) for n in (0, 5, 4294967295) for length in range(11)]
+    + [(n, [0] * length) for n in (1, 2, 3, 4) for length in range(11) if length != n]
+    + [(n, [0] * place + [too_great] + [0] * (n - place - 1))
+       for n in (1, 2, 3, 4)
+       for place in range(n)
+       for too_great in sorted({RULE_LIMITS[n][1], max(65535, RULE_LIMITS[n][1])})]
+)

@@ -1,0 +1,54 @@
+"""Who watches whom: how the towers' rules hang on one another's flags."""
+
+MOST_TOWERS = 4
+
+# The refusals.
+DOES_NOT_FIT = -22
+NO_SUCH_TOWER = -2
+
+# What a watching is made of; both together add up to 3.
+LIFTED = 1
+LOWERED = 2
+
+
+def power_of_two(exponent):
+    power = 1
+    for step in range(exponent):
+        power = power * 2
+    return power
+
+
+def bit_at(number, place):
+    return number // power_of_two(place) % 2
+
+
+def fits(n, t):
+    # n comes first: the limit below may only be reckoned for a small n.
+    if n < 1 or n > MOST_TOWERS:
+        return False
+    if len(t) != n:
+        return False
+    limit = power_of_two(power_of_two(n))
+    return all([rule < limit for rule in t])
+
+
+def watching(n, i, rule):
+    lifted = 0
+    lowered = 0
+    for state in range(power_of_two(n)):
+        if bit_at(state, i) == 0:
+            while_down = bit_at(rule, state)
+            while_up = bit_at(rule, state + power_of_two(i))
+            if while_down < while_up:
+                lifted = LIFTED
+            if while_down > while_up:
+                lowered = LOWERED
+    return lifted + lowered
+
+
+def kind(n, i, j, t):
+    if not fits(n, t):
+        return [DOES_NOT_FIT]
+    if i >= n or j >= n:
+        return [NO_SUCH_TOWER]
+    return [watching(n, i, t[j])]
