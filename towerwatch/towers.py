@@ -52,3 +52,14 @@ def kind(n, i, j, t):
     if i >= n or j >= n:
         return [NO_SUCH_TOWER]
     return [watching(n, i, t[j])]
+
+
+def kinds(n, t):
+    if not fits(n, t):
+        return [DOES_NOT_FIT]
+    found = []
+    for rule in t:
+        for i in range(n):
+            found.append(watching(n, i, rule))
+    count = len([each for each in found if each != 0])
+    return [count] + found
