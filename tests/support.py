@@ -1,4 +1,4 @@
-"""What the tests share: rules written as words, and the document's definition of watching, read literally."""
+"""What the tests share: rules written as words, and the document's definitions, read literally."""
 
 import itertools
 
@@ -24,6 +24,35 @@ def kind_by_definition(n, i, rule):
         if flags[i] == "0":
             changes.add(said + rows[flags[:i] + ("1",) + flags[i + 1:]])
     return ("01" in changes) + 2 * ("10" in changes)
+
+
+def ring_by_definition(n, t, l):
+    """What ring is to answer of different towers l that there are: every choice of lifting or lowering is tried."""
+    watchings = []
+    for watched, watcher in zip(l, l[1:] + l[:1]):
+        kind = kind_by_definition(n, watched, t[watcher])
+        watchings.append({0: "", 1: "+", 2: "-", 3: "+-"}[kind])
+    if "" in watchings:
+        return -6
+    lowerings = {choice.count("-") % 2 for choice in itertools.product(*watchings)}
+    return {(0,): 1, (1,): 2, (0, 1): 3}[tuple(sorted(lowerings))]
+
+
+def rules_round(n, l, sorts):
+    """Rules by which the towers l are a ring: sorts tells how each of them is watched by the next ("+", "-", "+-").
+
+    All other towers never change. For "+-" the watcher hangs on one more flag, so it takes two towers at least.
+    """
+    t = [0] * n
+    for watched, watcher, sort in zip(l, l[1:] + l[:1], sorts):
+        beside = (watched + 1) % n
+        says_up = {
+            "+": lambda f: f[watched],
+            "-": lambda f: not f[watched],
+            "+-": lambda f: f[watched] != f[beside],
+        }[sort]
+        t[watcher] = rule_of(n, says_up)
+    return t
 
 
 class SealedList(list):

@@ -5,10 +5,15 @@ MOST_TOWERS = 4
 # The refusals.
 DOES_NOT_FIT = -22
 NO_SUCH_TOWER = -2
+NOT_WATCHED = -6
 
 # What a watching is made of; both together add up to 3.
 LIFTED = 1
 LOWERED = 2
+
+# What a ring can be; both together add up to 3.
+CAN_BE_EVEN = 1
+CAN_BE_ODD = 2
 
 
 def power_of_two(exponent):
@@ -46,6 +51,30 @@ def watching(n, i, rule):
     return lifted + lowered
 
 
+def are_different_towers(n, l):
+    if len(l) == 0:
+        return False
+    return all([tower < n and l.count(tower) == 1 for tower in l])
+
+
+def watchings_round(n, t, l):
+    found = []
+    for place in range(len(l)):
+        # Behind the last tower the first one comes again.
+        watcher = l[(place + 1) % len(l)]
+        found.append(watching(n, l[place], t[watcher]))
+    return found
+
+
+def what_can_be(found):
+    # One watching that leaves the choice is enough: it alone turns even into odd.
+    if LIFTED + LOWERED in found:
+        return CAN_BE_EVEN + CAN_BE_ODD
+    if found.count(LOWERED) % 2 == 0:
+        return CAN_BE_EVEN
+    return CAN_BE_ODD
+
+
 def kind(n, i, j, t):
     if not fits(n, t):
         return [DOES_NOT_FIT]
@@ -63,3 +92,12 @@ def kinds(n, t):
             found.append(watching(n, i, rule))
     count = len([each for each in found if each != 0])
     return [count] + found
+
+
+def ring(n, t, l):
+    if not fits(n, t) or not are_different_towers(n, l):
+        return [DOES_NOT_FIT]
+    found = watchings_round(n, t, l)
+    if 0 in found:
+        return [NOT_WATCHED]
+    return [what_can_be(found)]
