@@ -1,5 +1,6 @@
 """What the tests share: rules written as words, and the document's definitions, read literally."""
 
+import functools
 import itertools
 
 
@@ -13,6 +14,7 @@ def rule_of(n, says_up):
     return rule
 
 
+@functools.lru_cache(maxsize=None)
 def kind_by_definition(n, i, rule):
     """How a tower with this rule watches tower i, over tuples of flags instead of numbered states."""
     rows = {}
@@ -38,6 +40,18 @@ def ring_by_definition(n, t, l):
     return {(0,): 1, (1,): 2, (0, 1): 3}[tuple(sorted(lowerings))]
 
 
+def rings_by_definition(n, t):
+    """Every ring, told from its least tower on, with what ring is to answer of it."""
+    rings = {}
+    for length in range(1, n + 1):
+        for l in itertools.permutations(range(n), length):
+            answer = ring_by_definition(n, t, list(l))
+            if answer != -6:
+                least = l.index(min(l))
+                rings[l[least:] + l[:least]] = answer
+    return rings
+
+
 def rules_round(n, l, sorts):
     """Rules by which the towers l are a ring: sorts tells how each of them is watched by the next ("+", "-", "+-").
 
@@ -53,6 +67,16 @@ def rules_round(n, l, sorts):
         }[sort]
         t[watcher] = rule_of(n, says_up)
     return t
+
+
+def few_watchings(n, stride):
+    """Every stride-th list of rules out of those that watch one tower or two, or none: rings of each length come up."""
+    rules = [0]
+    for i in range(n):
+        rules += [rule_of(n, lambda f: f[i]), rule_of(n, lambda f: not f[i])]
+    for i in range(n - 1):
+        rules += [rule_of(n, lambda f: f[i] != f[i + 1]), rule_of(n, lambda f: f[i + 1] and not f[i])]
+    return [list(t) for t in itertools.islice(itertools.product(rules, repeat=n), 0, None, stride)]
 
 
 class SealedList(list):

@@ -6,6 +6,7 @@ MOST_TOWERS = 4
 DOES_NOT_FIT = -22
 NO_SUCH_TOWER = -2
 NOT_WATCHED = -6
+NO_SUCH_RING = -33
 
 # What a watching is made of; both together add up to 3.
 LIFTED = 1
@@ -75,6 +76,34 @@ def what_can_be(found):
     return CAN_BE_ODD
 
 
+def one_tower_longer(n, choices):
+    longer = []
+    for towers in choices:
+        # A ring is told from its least tower on, so only greater ones come behind the first.
+        for tower in range(towers[0] + 1, n):
+            if tower not in towers:
+                longer.append(towers + [tower])
+    return longer
+
+
+def can_be(n, t, towers, wanted):
+    found = watchings_round(n, t, towers)
+    if 0 in found:
+        return False
+    return what_can_be(found) in (wanted, CAN_BE_EVEN + CAN_BE_ODD)
+
+
+def shortest_ring(n, t, wanted):
+    # Shorter choices come first, and those as long in order, so the first that can be is the one to tell.
+    choices = [[tower] for tower in range(n)]
+    while len(choices) > 0:
+        for towers in choices:
+            if can_be(n, t, towers, wanted):
+                return [len(towers)] + towers
+        choices = one_tower_longer(n, choices)
+    return [NO_SUCH_RING]
+
+
 def kind(n, i, j, t):
     if not fits(n, t):
         return [DOES_NOT_FIT]
@@ -101,3 +130,9 @@ def ring(n, t, l):
     if 0 in found:
         return [NOT_WATCHED]
     return [what_can_be(found)]
+
+
+def even(n, t):
+    if not fits(n, t):
+        return [DOES_NOT_FIT]
+    return shortest_ring(n, t, CAN_BE_EVEN)
