@@ -52,6 +52,20 @@ def rings_by_definition(n, t):
     return rings
 
 
+def shortest_by_definition(n, t, answers):
+    """What even or odd is to answer, if the rings looked for are those of which ring answers one of these."""
+    fitting = [l for l, answer in rings_by_definition(n, t).items() if answer in answers]
+    if not fitting:
+        return [-33]
+    first = min(fitting, key=lambda l: (len(l), l))
+    return [len(first)] + list(first)
+
+
+def rings_told(n):
+    """Every choice of different towers that begins with its least one."""
+    return [list(l) for length in range(1, n + 1) for l in itertools.permutations(range(n), length) if l[0] == min(l)]
+
+
 def rules_round(n, l, sorts):
     """Rules by which the towers l are a ring: sorts tells how each of them is watched by the next ("+", "-", "+-").
 

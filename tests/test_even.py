@@ -3,14 +3,11 @@ import itertools
 import unittest
 
 from towerwatch.towers import even, ring
-from tests.support import RULE_LIMITS, UNFIT, SealedList, few_watchings, rings_by_definition, rule_of, rules_round
+from tests.support import (
+    RULE_LIMITS, UNFIT, SealedList, few_watchings, rings_told, rule_of, rules_round, shortest_by_definition,
+)
 
 PARITY_OF_FOUR = rule_of(4, lambda f: sum(f) % 2 == 1)
-
-
-def rings_told(n):
-    """Every choice of different towers that begins with its least one."""
-    return [list(l) for length in range(1, n + 1) for l in itertools.permutations(range(n), length) if l[0] == min(l)]
 
 
 class OrdinaryRings(unittest.TestCase):
@@ -105,15 +102,11 @@ class OrdinaryRings(unittest.TestCase):
         self.assertEqual(lengths, {-33, 1, 2, 3, 4})
 
     def check_towers(self, n, t):
-        fitting = [l for l, answer in rings_by_definition(n, t).items() if answer in (1, 3)]
         answer = even(n, t)
-        if fitting:
-            first = min(fitting, key=lambda l: (len(l), l))
-            self.assertEqual(answer, [len(first)] + list(first), (n, t))
+        self.assertEqual(answer, shortest_by_definition(n, t, (1, 3)), (n, t))
+        if answer != [-33]:
             self.assertEqual(answer[1], min(answer[1:]))
             self.assertIn(ring(n, t, answer[1:]), [[1], [3]])
-        else:
-            self.assertEqual(answer, [-33], (n, t))
         return answer[0]
 
 

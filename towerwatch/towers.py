@@ -136,3 +136,9 @@ def even(n, t):
     if not fits(n, t):
         return [DOES_NOT_FIT]
     return shortest_ring(n, t, CAN_BE_EVEN)
+
+
+def odd(n, t):
+    if not fits(n, t):
+        return [DOES_NOT_FIT]
+    return shortest_ring(n, t, CAN_BE_ODD)
