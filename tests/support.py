@@ -61,6 +61,19 @@ def shortest_by_definition(n, t, answers):
     return [len(first)] + list(first)
 
 
+def layers_by_definition(n, t):
+    """What layers is to answer."""
+    if rings_by_definition(n, t):
+        return [-33]
+
+    def layer_of(tower):
+        watched = [i for i in range(n) if kind_by_definition(n, i, t[tower])]
+        return 1 + max(layer_of(i) for i in watched) if watched else 0
+
+    found = [layer_of(tower) for tower in range(n)]
+    return [len(set(found))] + found
+
+
 def rings_told(n):
     """Every choice of different towers that begins with its least one."""
     return [list(l) for length in range(1, n + 1) for l in itertools.permutations(range(n), length) if l[0] == min(l)]
@@ -91,6 +104,25 @@ def few_watchings(n, stride):
     for i in range(n - 1):
         rules += [rule_of(n, lambda f: f[i] != f[i + 1]), rule_of(n, lambda f: f[i + 1] and not f[i])]
     return [list(t) for t in itertools.islice(itertools.product(rules, repeat=n), 0, None, stride)]
+
+
+def rules_in_order(n, order, tables):
+    """Rules by which each tower hangs on those ahead of it in this order alone: there is no ring.
+
+    A tower's table is a number: if the flags ahead of it, read as a number, make k, it tells in place k.
+    """
+    t = [0] * n
+    for place, (tower, table) in enumerate(zip(order, tables)):
+        ahead = order[:place]
+        t[tower] = rule_of(n, lambda f: table >> sum(f[watched] << k for k, watched in enumerate(ahead)) & 1)
+    return t
+
+
+def without_a_ring(n, stride):
+    """Every stride-th list of rules out of those without a ring, in all orders (some come up several times)."""
+    tables = [range(2 ** 2 ** place) for place in range(n)]
+    choices = itertools.product(itertools.permutations(range(n)), itertools.product(*tables))
+    return [rules_in_order(n, order, chosen) for order, chosen in itertools.islice(choices, 0, None, stride)]
 
 
 class SealedList(list):

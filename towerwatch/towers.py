@@ -7,6 +7,7 @@ DOES_NOT_FIT = -22
 NO_SUCH_TOWER = -2
 NOT_WATCHED = -6
 NO_SUCH_RING = -33
+THERE_IS_A_RING = -33
 
 # What a watching is made of; both together add up to 3.
 LIFTED = 1
@@ -104,6 +105,15 @@ def shortest_ring(n, t, wanted):
     return [NO_SUCH_RING]
 
 
+def watches_placed_ones_alone(n, rule, placed):
+    return all([i in placed or watching(n, i, rule) == 0 for i in range(n)])
+
+
+def next_layer(n, t, placed):
+    unplaced = [tower for tower in range(n) if tower not in placed]
+    return [tower for tower in unplaced if watches_placed_ones_alone(n, t[tower], placed)]
+
+
 def kind(n, i, j, t):
     if not fits(n, t):
         return [DOES_NOT_FIT]
@@ -142,3 +152,19 @@ def odd(n, t):
     if not fits(n, t):
         return [DOES_NOT_FIT]
     return shortest_ring(n, t, CAN_BE_ODD)
+
+
+def layers(n, t):
+    if not fits(n, t):
+        return [DOES_NOT_FIT]
+    placed = {}
+    count = 0
+    while len(placed) < n:
+        towers = next_layer(n, t, placed)
+        # If each one that is left watches one that is left, itself perhaps, going on so comes round: a ring.
+        if len(towers) == 0:
+            return [THERE_IS_A_RING]
+        for tower in towers:
+            placed[tower] = count
+        count = count + 1
+    return [count] + [placed[tower] for tower in range(n)]
